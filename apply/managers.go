@@ -48,7 +48,7 @@ func ascending(texts []string) bool {
 	return true
 }
 
-// ownedBy returns the fields of the manager name, who has none unless he is among the managers.
+// ownedBy returns the fields of the manager name, or none if it is not among the managers.
 func ownedBy(m []api.Manager, name string) []string {
 	for _, one := range m {
 		if one.Name == name {
